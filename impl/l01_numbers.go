@@ -368,28 +368,28 @@ func SumComplex(list []complex64) (complex64, bool) {
 	return sum, true
 }
 
-// DotComplex returns the sum of products.
-func DotComplex(a, b []complex64) (complex64, bool) {
+// dotWith returns the sum of what product makes of each two numbers.
+func dotWith(a, b []complex64, product func(x, y complex64) complex64) (complex64, bool) {
 	if len(a) > MaxNumbers || len(a) != len(b) {
 		return 0, false
 	}
 	var sum complex64
 	for i := range a {
-		sum = addComplex(sum, MulComplex(a[i], b[i]))
+		sum = addComplex(sum, product(a[i], b[i]))
 	}
 	return sum, true
 }
 
+// DotComplex returns the sum of products.
+func DotComplex(a, b []complex64) (complex64, bool) {
+	return dotWith(a, b, MulComplex)
+}
+
 // DotConjugate returns the sum of products with conjugates.
 func DotConjugate(a, b []complex64) (complex64, bool) {
-	if len(a) > MaxNumbers || len(a) != len(b) {
-		return 0, false
-	}
-	var sum complex64
-	for i := range a {
-		sum = addComplex(sum, MulComplex(ConjugateOf(a[i]), b[i]))
-	}
-	return sum, true
+	return dotWith(a, b, func(x, y complex64) complex64 {
+		return MulComplex(ConjugateOf(x), y)
+	})
 }
 
 // PowersOf returns the sum of powers.
