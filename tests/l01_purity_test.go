@@ -149,9 +149,9 @@ func callsOnTexts() []call {
 	return calls
 }
 
-// TestResultsDependOnArgumentsOnly calls every function of chapter 1 with whatever there is, forwards and backwards.
-func TestResultsDependOnArgumentsOnly(t *testing.T) {
-	calls := append(append(callsOnNumbers(), callsOnComplex()...), append(callsOnLists(), callsOnTexts()...)...)
+// wantAgain makes the calls forwards and backwards, and wants the same results.
+func wantAgain(t *testing.T, calls []call) {
+	t.Helper()
 	first := make([]string, len(calls))
 	for i, c := range calls {
 		first[i] = fmt.Sprint(c.run()...)
@@ -161,6 +161,11 @@ func TestResultsDependOnArgumentsOnly(t *testing.T) {
 			t.Errorf("%s: got %s, and then %s", calls[i].name, first[i], again)
 		}
 	}
+}
+
+// TestResultsDependOnArgumentsOnly calls every function of chapter 1 with whatever there is.
+func TestResultsDependOnArgumentsOnly(t *testing.T) {
+	wantAgain(t, append(append(callsOnNumbers(), callsOnComplex()...), append(callsOnLists(), callsOnTexts()...)...))
 }
 
 // TestNotANumbersAreOneValue holds that not-a-numbers with other bits make no other result.
