@@ -24,6 +24,7 @@ const (
 	bitsDigits = 8
 	longTurns  = 1 << 52 // from here on, 64-bit numbers have no places behind the point
 	emptyText  = "none"
+	comma      = ","
 )
 
 // SameNumber reports whether two numbers are the same.
@@ -404,8 +405,9 @@ func PowersOf(list []complex64) (float32, bool) {
 	return NarrowNumber(sum), true
 }
 
-// joinText returns the texts of at most so many things, with commas between.
-func joinText[T any](list []T, most int, textOf func(T) string) (string, bool) {
+// joinText returns the texts of at most so many things, with a separator
+// between.
+func joinText[T any](list []T, most int, separator string, textOf func(T) string) (string, bool) {
 	if len(list) > most {
 		return "", false
 	}
@@ -416,16 +418,16 @@ func joinText[T any](list []T, most int, textOf func(T) string) (string, bool) {
 	for i, x := range list {
 		texts[i] = textOf(x)
 	}
-	return strings.Join(texts, ","), true
+	return strings.Join(texts, separator), true
 }
 
 // splitText returns the things whose joinText is s.
-func splitText[T any](s string, most int, read func(string) (T, bool)) ([]T, bool) {
+func splitText[T any](s string, most int, separator string, read func(string) (T, bool)) ([]T, bool) {
 	if s == emptyText {
 		return nil, true
 	}
 	// One part more than allowed is enough to see that there are too many.
-	texts := strings.SplitN(s, ",", most+1)
+	texts := strings.SplitN(s, separator, most+1)
 	if len(texts) > most {
 		return nil, false
 	}
@@ -480,12 +482,12 @@ func readNumber(s string) (float32, bool) {
 
 // NumbersText returns the text of numbers.
 func NumbersText(list []float32) (string, bool) {
-	return joinText(list, MaxNumbers, numberText)
+	return joinText(list, MaxNumbers, comma, numberText)
 }
 
 // ReadNumbers returns the numbers with the given text.
 func ReadNumbers(s string) ([]float32, bool) {
-	return splitText(s, MaxNumbers, readNumber)
+	return splitText(s, MaxNumbers, comma, readNumber)
 }
 
 func oneComplexText(x complex64) string {
@@ -507,12 +509,12 @@ func readOneComplex(s string) (complex64, bool) {
 
 // ComplexText returns the text of complex numbers.
 func ComplexText(list []complex64) (string, bool) {
-	return joinText(list, MaxNumbers, oneComplexText)
+	return joinText(list, MaxNumbers, comma, oneComplexText)
 }
 
 // ReadComplex returns the complex numbers with the given text.
 func ReadComplex(s string) ([]complex64, bool) {
-	return splitText(s, MaxNumbers, readOneComplex)
+	return splitText(s, MaxNumbers, comma, readOneComplex)
 }
 
 // IsName reports whether s is a name.
@@ -554,12 +556,12 @@ func ListText(list []int64) (string, bool) {
 			return "", false
 		}
 	}
-	return joinText(list, MaxItems, Decimal)
+	return joinText(list, MaxItems, comma, Decimal)
 }
 
 // ReadList returns the list with the given text.
 func ReadList(s string) ([]int64, bool) {
-	return splitText(s, MaxItems, ReadDecimal)
+	return splitText(s, MaxItems, comma, ReadDecimal)
 }
 
 // CheckOf returns the check number of a text.

@@ -244,10 +244,7 @@ func TestBytesThatAreCut(t *testing.T) {
 
 // sealed returns bytes with the check number behind them, made without the program.
 func sealed(bytes string) string {
-	check := 0
-	for _, b := range []byte(bytes) {
-		check = (857*check + int(b) + 149) % 65003
-	}
+	check := checkBehind(0, bytes)
 	return bytes + string([]byte{byte(check), byte(check >> 8)})
 }
 
